@@ -27,6 +27,65 @@ func session() api.Session {
 	}
 }
 
+// whole is a ledger with texts and lists in all of its parts.
+func whole() api.Ledger {
+	x := session()
+	b := api.Block{Seq: 9, Prev: "prev", Root: "root", Statements: x.Statements, Revs: x.View.Revs}
+	return api.Ledger{Blocks: []api.Block{b, b}, State: x.View.Base, Prev: b.Prev, Sessions: []api.Session{x, x}, Last: 8}
+}
+
+// A ledger is copied as its sessions are, and so is a revision.
+func TestLedgerCopies(t *testing.T) {
+	l := whole()
+	was := twin(l)
+	got := own.Ledger(l)
+	if !same(got, l) || !same(l, was) {
+		t.Errorf("%s, not %s", show(got), show(was))
+	}
+	apart(t, got, l, own.Ledger(l))
+	for _, r := range l.Blocks[0].Revs {
+		x := own.Rev(r)
+		if !same(x, r) {
+			t.Errorf("%s, not %s", show(x), show(r))
+		}
+		apart(t, x, r, own.Rev(r))
+	}
+	if got := own.Ledger(api.Ledger{Blocks: []api.Block{}, Sessions: make([]api.Session, 0, 3)}); !reflect.DeepEqual(got, api.Ledger{}) {
+		t.Errorf("%#v", got)
+	}
+}
+
+// States are the same, if all of their parts are.
+func TestSame(t *testing.T) {
+	s := session().View.Base
+	empty := api.State{Tables: []api.Table{{Indexes: []string{}, Docs: []api.Doc{{Versions: []api.Version{}}}}}}
+	if !own.Same(s, twin(s)) || !own.Same(api.State{}, api.State{Tables: []api.Table{}}) || !own.Same(empty, api.State{Tables: []api.Table{{Docs: []api.Doc{{}}}}}) {
+		t.Error("states are unlike their copies")
+	}
+	for i, with := range []func(s *api.State){
+		func(s *api.State) { s.Seq++ },
+		func(s *api.State) { s.Last++ },
+		func(s *api.State) { s.Tables = s.Tables[:1] },
+		func(s *api.State) { s.Tables = nil },
+		func(s *api.State) { s.Tables[1].Name = "other" },
+		func(s *api.State) { s.Tables[1].Indexes = s.Tables[1].Indexes[:1] },
+		func(s *api.State) { s.Tables[1].Indexes[1] = "other" },
+		func(s *api.State) { s.Tables[0].Docs = s.Tables[0].Docs[1:] },
+		func(s *api.State) { s.Tables[0].Docs[1].Id++ },
+		func(s *api.State) { s.Tables[0].Docs[1].Versions = s.Tables[0].Docs[1].Versions[:1] },
+		func(s *api.State) { s.Tables[0].Docs[1].Versions[0].Seq++ },
+		func(s *api.State) { s.Tables[0].Docs[1].Versions[0].Gone = true },
+		func(s *api.State) { s.Tables[0].Docs[1].Versions[0].Value.Fields[1].Value.S = "other" },
+		func(s *api.State) { s.Tables[0].Docs[1].Versions[1].Value.N = 1 },
+	} {
+		x := twin(s)
+		with(&x)
+		if own.Same(s, x) || own.Same(x, s) {
+			t.Errorf("%d: %s is the same as %s", i, show(x), show(s))
+		}
+	}
+}
+
 // What is copied is the same, and shares no memory, with itself neither, though what was handed in does.
 func TestCopies(t *testing.T) {
 	x := session()
