@@ -9,6 +9,12 @@ import (
 	"codicil/value"
 )
 
+// Disk is a disk in memory of its own.
+func Disk(d api.Disk) api.Disk {
+	d.Data = strings.Clone(d.Data)
+	return d
+}
+
 // Ledger is a ledger in memory of its own.
 func Ledger(l api.Ledger) api.Ledger {
 	l.Blocks = list(l.Blocks, block)

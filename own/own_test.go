@@ -55,6 +55,17 @@ func TestLedgerCopies(t *testing.T) {
 	}
 }
 
+// A disk is copied, whatever is on it.
+func TestDiskCopies(t *testing.T) {
+	for _, d := range []api.Disk{{}, {Data: "bytes", Synced: 2, Cap: 9, Down: true, Fuse: 3}} {
+		got := own.Disk(d)
+		if got != d {
+			t.Errorf("%s, not %s", show(got), show(d))
+		}
+		apart(t, got, d, own.Disk(d))
+	}
+}
+
 // States are the same, if all of their parts are.
 func TestSame(t *testing.T) {
 	s := session().View.Base
